@@ -12,6 +12,7 @@ import (
 	"parchment/change"
 	"parchment/device"
 	"parchment/log"
+	"parchment/node"
 	"parchment/page"
 	"parchment/pool"
 	"parchment/space"
@@ -36,8 +37,8 @@ func grown(t *testing.T) (*change.Book, int) {
 		must(t, e)
 		anew(t, b)
 	}
-	if n, e := loadRoot(b, root); e != api.OK || n.level != 2 {
-		t.Fatalf("%d levels above the leaves, %d: no tree of three levels", n.level, e)
+	if n, e := node.Root(b, root); e != api.OK || n.Level != 2 {
+		t.Fatalf("%d levels above the leaves, %d: no tree of three levels", n.Level, e)
 	}
 	return b, root
 }
@@ -79,13 +80,13 @@ func undone(t *testing.T, b *change.Book, do func()) {
 }
 
 // forge puts a node on its page, whatever is wrong with it.
-func forge(t *testing.T, b *change.Book, n *node) {
+func forge(t *testing.T, b *change.Book, n *node.Node) {
 	t.Helper()
-	p, is := n.bytes()
+	p, is := n.Bytes()
 	if !is {
 		t.Fatal("there is no room for what is forged")
 	}
-	must(t, b.Put(n.page, p))
+	must(t, b.Put(n.Page, p))
 }
 
 // told is what the calls are told of a tree, one by one, each from the same beginning on; what stands beside an error is held against zeros.
@@ -142,28 +143,28 @@ func TestForgedPages(t *testing.T) {
 	key := []byte(grownKey(grownCells / 2))
 	way, e := toLeaf(b, root, key)
 	must(t, e)
-	limb, leaf := way[1].page, way[2].page
-	children := func(to int) func(n *node) {
-		return func(n *node) {
-			for at := range n.row {
-				n.row[at].Value = numbered(to)
+	limb, leaf := way[1].Page, way[2].Page
+	children := func(to int) func(n *node.Node) {
+		return func(n *node.Node) {
+			for at := range n.Row {
+				n.Row[at].Value = node.Numbered(to)
 			}
 		}
 	}
-	cells := func(row ...api.Cell) func(n *node) { return func(n *node) { n.row = row } }
+	cells := func(row ...api.Cell) func(n *node.Node) { return func(n *node.Node) { n.Row = row } }
 	for _, x := range []struct {
 		name string
 		at   int // of the way: 0 is the root, 2 the leaf
-		bend func(n *node)
+		bend func(n *node.Node)
 		seen int
 	}{
-		{"the root is a limb", 0, func(n *node) { n.kind = limbKind }, all},
-		{"the root is of another level", 0, func(n *node) { n.level++ }, all},
-		{"the limb is a root", 1, func(n *node) { n.kind = rootKind }, all},
-		{"the limb is of another level", 1, func(n *node) { n.level++ }, all},
-		{"the leaf is a root", 2, func(n *node) { n.kind = rootKind }, all},
-		{"the leaf is a limb", 2, func(n *node) { n.level, n.row = 1, way[1].row }, all},
-		{"the leaf is of another kind", 2, func(n *node) { n.kind = 32 }, all},
+		{"the root is a limb", 0, func(n *node.Node) { n.Kind = node.LimbKind }, all},
+		{"the root is of another level", 0, func(n *node.Node) { n.Level++ }, all},
+		{"the limb is a root", 1, func(n *node.Node) { n.Kind = node.RootKind }, all},
+		{"the limb is of another level", 1, func(n *node.Node) { n.Level++ }, all},
+		{"the leaf is a root", 2, func(n *node.Node) { n.Kind = node.RootKind }, all},
+		{"the leaf is a limb", 2, func(n *node.Node) { n.Level, n.Row = 1, way[1].Row }, all},
+		{"the leaf is of another kind", 2, func(n *node.Node) { n.Kind = 32 }, all},
 		{"the root's children are itself", 0, children(root), all},
 		{"the root's children are leaves", 0, children(leaf), all},
 		{"the limb's children are the root", 1, children(root), all},
@@ -174,27 +175,27 @@ func TestForgedPages(t *testing.T) {
 		{"children are no pages", 1, children(65535), all},
 		{"children are as many as pages", 1, children(b.Pages()), all},
 		{"children are one and the same", 1, children(leaf), whole},
-		{"one child is another one, too", 0, func(n *node) { n.row[1].Value = n.row[0].Value }, whole},
-		{"one child is no page", 1, func(n *node) { n.row = with(n.row, api.Cell{Key: []byte("z"), Value: numbered(65535)}) }, whole},
-		{"two first children", 0, func(n *node) { n.row[0].Key, n.row[1].Key = nil, nil }, all},
-		{"no first child", 0, func(n *node) { n.row = lifted(n.row, []byte("a")) }, all},
-		{"one child", 1, cells(api.Cell{Value: numbered(leaf)}), all},
+		{"one child is another one, too", 0, func(n *node.Node) { n.Row[1].Value = n.Row[0].Value }, whole},
+		{"one child is no page", 1, func(n *node.Node) { n.Row = with(n.Row, api.Cell{Key: []byte("z"), Value: node.Numbered(65535)}) }, whole},
+		{"two first children", 0, func(n *node.Node) { n.Row[0].Key, n.Row[1].Key = nil, nil }, all},
+		{"no first child", 0, func(n *node.Node) { n.Row = lifted(n.Row, []byte("a")) }, all},
+		{"one child", 1, cells(api.Cell{Value: node.Numbered(leaf)}), all},
 		{"no child", 1, cells(), all},
 		{"no cell", 2, cells(), all},
-		{"a child of one byte", 1, func(n *node) { n.row[0].Value = []byte{1} }, all},
-		{"a child of no bytes", 1, func(n *node) { n.row[0].Value = nil }, all},
-		{"a child of three bytes", 1, func(n *node) { n.row[0].Value = append(n.row[0].Value, 0) }, all},
-		{"a child's key too long", 1, cells(api.Cell{Value: numbered(leaf)}, api.Cell{Key: make([]byte, 161), Value: numbered(leaf)}), all},
-		{"a key of no bytes", 2, func(n *node) { n.row[0].Key = nil }, all},
+		{"a child of one byte", 1, func(n *node.Node) { n.Row[0].Value = []byte{1} }, all},
+		{"a child of no bytes", 1, func(n *node.Node) { n.Row[0].Value = nil }, all},
+		{"a child of three bytes", 1, func(n *node.Node) { n.Row[0].Value = append(n.Row[0].Value, 0) }, all},
+		{"a child's key too long", 1, cells(api.Cell{Value: node.Numbered(leaf)}, api.Cell{Key: make([]byte, 161), Value: node.Numbered(leaf)}), all},
+		{"a key of no bytes", 2, func(n *node.Node) { n.Row[0].Key = nil }, all},
 		{"a key too long", 2, cells(api.Cell{Key: make([]byte, 161)}), all},
 		{"a cell too long", 2, cells(api.Cell{Key: []byte("k"), Value: make([]byte, 200)}), all},
-		{"two cells of one key", 2, func(n *node) { n.row = append(n.row[:1:1], n.row[0]) }, checked},
+		{"two cells of one key", 2, func(n *node.Node) { n.Row = append(n.Row[:1:1], n.Row[0]) }, checked},
 		{"a key below all that may be", 2, cells(api.Cell{Key: []byte("a")}), checked},
 		{"a key above all that may be", 2, cells(api.Cell{Key: []byte("z")}), checked},
-		{"the limb's keys below all that may be", 1, func(n *node) {
-			n.row = with(without(n.row, 0), n.row[0])
-			n.row = lifted(n.row, []byte("a"))
-			n.row[0].Key = nil
+		{"the limb's keys below all that may be", 1, func(n *node.Node) {
+			n.Row = with(without(n.Row, 0), n.Row[0])
+			n.Row = lifted(n.Row, []byte("a"))
+			n.Row[0].Key = nil
 		}, checked},
 	} {
 		t.Run(x.name, func(t *testing.T) {
@@ -227,17 +228,17 @@ func TestForgedBytes(t *testing.T) {
 	way, e := toLeaf(b, root, key)
 	must(t, e)
 	for _, n := range way {
-		next, _ := n.bytes()
+		next, _ := n.Bytes()
 		page.SetNext(next, 1)
 		rows := [][]byte{next}
 		for _, cell := range [][]byte{{}, {1}, {2, 'k'}, {255, 'k'}, append([]byte{200}, key...)} {
-			p, _ := n.bytes()
+			p, _ := n.Bytes()
 			page.Delete(p, 0)
 			page.Insert(p, 0, cell)
 			rows = append(rows, p)
 		}
 		for _, p := range rows {
-			get, put, del, drop, check := told(t, b, func() { must(t, b.Put(n.page, p)) }, root, key)
+			get, put, del, drop, check := told(t, b, func() { must(t, b.Put(n.Page, p)) }, root, key)
 			for _, e := range []api.Errno{get, put, del, drop, check} {
 				if e != api.ErrShape {
 					t.Fatalf("%d, %d, %d, %d, %d of the bytes %v", get, put, del, drop, check, p[:20])
@@ -294,20 +295,20 @@ func TestAnyBytes(t *testing.T) {
 
 // bend lets a page's node be another one that may stand there, as far as the page alone tells.
 func bend(r *rand.Rand, p []byte, pages []int) {
-	n, is := parse(p)
+	n, is := node.Parse(p)
 	if !is {
 		return
 	}
-	at := r.Intn(len(n.row))
+	at := r.Intn(len(n.Row))
 	switch {
-	case n.level == 0:
-		n.row[at].Key = bytes.Repeat([]byte{byte(r.Intn(256))}, 1+r.Intn(40))
+	case n.Level == 0:
+		n.Row[at].Key = bytes.Repeat([]byte{byte(r.Intn(256))}, 1+r.Intn(40))
 	case r.Intn(2) == 0:
-		n.row[at].Value = numbered(pages[r.Intn(len(pages))])
-	case len(n.row[at].Key) > 0:
-		n.row[at].Key = bytes.Repeat([]byte{byte(r.Intn(256))}, 1+r.Intn(160))
+		n.Row[at].Value = node.Numbered(pages[r.Intn(len(pages))])
+	case len(n.Row[at].Key) > 0:
+		n.Row[at].Key = bytes.Repeat([]byte{byte(r.Intn(256))}, 1+r.Intn(160))
 	}
-	if q, is := n.bytes(); is {
+	if q, is := n.Bytes(); is {
 		copy(p, q)
 	}
 }
@@ -316,30 +317,30 @@ func bend(r *rand.Rand, p []byte, pages []int) {
 func TestDeepest(t *testing.T) {
 	b := opened(t)
 	var numbers []int
-	for range maxLevel + 1 {
+	for range node.MaxLevel + 1 {
 		number, e := space.Take(b)
 		must(t, e)
 		numbers = append(numbers, number)
 	}
 	long := func(x byte) []byte { return bytes.Repeat([]byte{x}, api.MaxKey) }
 	for level, number := range numbers {
-		n := &node{page: number, kind: limbKind, level: level}
+		n := &node.Node{Page: number, Kind: node.LimbKind, Level: level}
 		if level == 0 {
-			n.row = []api.Cell{{Key: long('b'), Value: make([]byte, 40)}, {Key: long('c'), Value: make([]byte, 40)}}
+			n.Row = []api.Cell{{Key: long('b'), Value: make([]byte, 40)}, {Key: long('c'), Value: make([]byte, 40)}}
 		} else {
-			below := numbered(numbers[level-1])
-			n.row = []api.Cell{{Value: below}}
+			below := node.Numbered(numbers[level-1])
+			n.Row = []api.Cell{{Value: below}}
 			for i := range 3 {
-				n.row = append(n.row, api.Cell{Key: long(byte(100 + 4*level + i)), Value: below})
+				n.Row = append(n.Row, api.Cell{Key: long(byte(100 + 4*level + i)), Value: below})
 			}
 		}
-		if level == maxLevel {
-			n.kind = rootKind
+		if level == node.MaxLevel {
+			n.Kind = node.RootKind
 		}
 		forge(t, b, n)
 		anew(t, b)
 	}
-	root := numbers[maxLevel]
+	root := numbers[node.MaxLevel]
 	if r, e := Put(b, root, append(long('b')[:159], 'c'), make([]byte, 40)); r != 0 || e != api.ErrShape {
 		t.Errorf("Put = %d, %d", r, e)
 	}
@@ -358,45 +359,45 @@ func TestDeleteThatNeedsAPage(t *testing.T) {
 		{long(159, "e", 0), "f"},
 		{long(159, "g", 0), "h"},
 	}
-	taking := func(kind byte, level int) *node {
+	taking := func(kind byte, level int) *node.Node {
 		n, e := taken(b, kind, level)
 		must(t, e)
 		return n
 	}
-	root := taking(rootKind, 2)
+	root := taking(node.RootKind, 2)
 	var keys []string
 	for _, edges := range lifts {
-		n := taking(limbKind, 1)
+		n := taking(node.LimbKind, 1)
 		for i, edge := range edges {
-			leaf := taking(limbKind, 0)
+			leaf := taking(node.LimbKind, 0)
 			key := edge + "!"
 			if len(edge) == api.MaxKey {
 				key = edge
 			}
-			leaf.row = []api.Cell{{Key: []byte(key)}}
+			leaf.Row = []api.Cell{{Key: []byte(key)}}
 			keys = append(keys, key)
 			if i == 0 {
-				root.row = append(root.row, api.Cell{Key: []byte(edge), Value: numbered(n.page)})
+				root.Row = append(root.Row, api.Cell{Key: []byte(edge), Value: node.Numbered(n.Page)})
 				edge = ""
 			}
-			n.row = append(n.row, api.Cell{Key: []byte(edge), Value: numbered(leaf.page)})
+			n.Row = append(n.Row, api.Cell{Key: []byte(edge), Value: node.Numbered(leaf.Page)})
 			forge(t, b, leaf)
 		}
 		forge(t, b, n)
 		anew(t, b)
 	}
 	forge(t, b, root)
-	_, ahead, e := Check(b, root.page)
+	_, ahead, e := Check(b, root.Page)
 	must(t, e)
-	if r, was, e := Delete(b, root.page, []byte("bb!")); r != root.page || !was || e != api.OK {
+	if r, was, e := Delete(b, root.Page, []byte("bb!")); r != root.Page || !was || e != api.OK {
 		t.Fatalf("Delete = %d, %v, %d", r, was, e)
 	}
-	n, behind, e := Check(b, root.page)
+	n, behind, e := Check(b, root.Page)
 	if n != len(keys)-1 || len(behind) <= len(ahead) || e != api.OK {
 		t.Fatalf("Check = %d, %v, %d; ahead %v", n, behind, e, ahead)
 	}
 	for _, key := range keys {
-		if _, is, e := Get(b, root.page, []byte(key)); is != (key != "bb!") || e != api.OK {
+		if _, is, e := Get(b, root.Page, []byte(key)); is != (key != "bb!") || e != api.OK {
 			t.Errorf("Get(%q) = %v, %d", key, is, e)
 		}
 	}
@@ -406,18 +407,18 @@ func TestDeleteThatNeedsAPage(t *testing.T) {
 func TestKeysThatAreTooHigh(t *testing.T) {
 	b := opened(t)
 	long := func(first string) []byte { return []byte(first + strings.Repeat("x", api.MaxKey-len(first))) }
-	child := func(n *node, key []byte, below *node) {
-		n.row = append(n.row, api.Cell{Key: key, Value: numbered(below.page)})
+	child := func(n *node.Node, key []byte, below *node.Node) {
+		n.Row = append(n.Row, api.Cell{Key: key, Value: node.Numbered(below.Page)})
 	}
-	nodes := make([]*node, 3)
+	nodes := make([]*node.Node, 3)
 	for level := range nodes {
-		n, e := taken(b, limbKind, level)
+		n, e := taken(b, node.LimbKind, level)
 		must(t, e)
 		nodes[level] = n
 	}
 	leaf, limb, root := nodes[0], nodes[1], nodes[2]
-	root.kind = rootKind
-	leaf.row = []api.Cell{{Key: long("da"), Value: make([]byte, 40)}, {Key: long("daa"), Value: make([]byte, 40)}}
+	root.Kind = node.RootKind
+	leaf.Row = []api.Cell{{Key: long("da"), Value: make([]byte, 40)}, {Key: long("daa"), Value: make([]byte, 40)}}
 	for _, key := range [][]byte{nil, long("a1"), long("a2"), long("a3")} {
 		child(limb, key, leaf)
 	}
@@ -428,7 +429,7 @@ func TestKeysThatAreTooHigh(t *testing.T) {
 		forge(t, b, n)
 		anew(t, b)
 	}
-	if r, e := Put(b, root.page, long("db"), make([]byte, 40)); r != 0 || e != api.ErrShape {
+	if r, e := Put(b, root.Page, long("db"), make([]byte, 40)); r != 0 || e != api.ErrShape {
 		t.Errorf("Put = %d, %d", r, e)
 	}
 }
@@ -472,12 +473,12 @@ func deleteAll(t *testing.T, b *change.Book, root int) bool {
 func TestKeysAtTheEdges(t *testing.T) {
 	b, root := grown(t)
 	type place struct {
-		n *node
-		s span
+		n *node.Node
+		s node.Span
 	}
 	var leaves []place
-	must(t, eachNode(b, root, func(n *node, s span) api.Errno {
-		if n.level == 0 {
+	must(t, eachNode(b, root, func(n *node.Node, s node.Span) api.Errno {
+		if n.Level == 0 {
 			leaves = append(leaves, place{n, s})
 		}
 		return api.OK
@@ -491,19 +492,19 @@ func TestKeysAtTheEdges(t *testing.T) {
 	for at, leaf := range leaves {
 		holds := func(key []byte, sound bool) {
 			undone(t, b, func() {
-				forge(t, b, &node{page: leaf.n.page, kind: limbKind, row: []api.Cell{{Key: key}}})
+				forge(t, b, &node.Node{Page: leaf.n.Page, Kind: node.LimbKind, Row: []api.Cell{{Key: key}}})
 				if _, _, e := Check(b, root); (e == api.OK) != sound || !sound && e != api.ErrShape {
-					t.Fatalf("Check = %d of a leaf from %q to %q with the key %q", e, leaf.s.low, leaf.s.high, key)
+					t.Fatalf("Check = %d of a leaf from %q to %q with the key %q", e, leaf.s.Low, leaf.s.High, key)
 				}
 			})
 		}
 		if at > 0 {
-			holds(leaf.s.low, true)
-			holds(below(leaf.s.low), false)
+			holds(leaf.s.Low, true)
+			holds(below(leaf.s.Low), false)
 		}
 		if at < len(leaves)-1 {
-			holds(below(leaf.s.high), true)
-			holds(leaf.s.high, false)
+			holds(below(leaf.s.High), true)
+			holds(leaf.s.High, false)
 		}
 	}
 }
@@ -541,14 +542,14 @@ func TestMiddle(t *testing.T) {
 		row := anyRow(r, level)
 		at := middle(row)
 		left, _, right := cut(level, row, at)
-		if size(left) > room || size(right) > room {
-			t.Fatalf("a row of %d was cut in %d and %d", size(row), size(left), size(right))
+		if node.Size(left) > node.Room || node.Size(right) > node.Room {
+			t.Fatalf("a row of %d was cut in %d and %d", node.Size(row), node.Size(left), node.Size(right))
 		}
-		if len(left) < fewest(level) || len(right) < fewest(level) {
+		if len(left) < node.Fewest(level) || len(right) < node.Fewest(level) {
 			t.Fatalf("a row of %d cells was cut in %d and %d", len(row), len(left), len(right))
 		}
-		if level == 0 && min(size(left), size(right)) < 152 {
-			t.Fatalf("a row of %d was cut in %d and %d", size(row), size(left), size(right))
+		if level == 0 && min(node.Size(left), node.Size(right)) < 152 {
+			t.Fatalf("a row of %d was cut in %d and %d", node.Size(row), node.Size(left), node.Size(right))
 		}
 	}
 }
@@ -559,10 +560,10 @@ func anyRow(r *rand.Rand, level int) []api.Cell {
 	for {
 		var row []api.Cell
 		if level > 0 {
-			row = append(row, api.Cell{Value: numbered(1)})
+			row = append(row, api.Cell{Value: node.Numbered(1)})
 		}
-		for size(row) <= room {
-			c := api.Cell{Key: make([]byte, 1+r.Intn(long)), Value: numbered(1)}
+		for node.Size(row) <= node.Room {
+			c := api.Cell{Key: make([]byte, 1+r.Intn(long)), Value: node.Numbered(1)}
 			r.Read(c.Key)
 			if level == 0 {
 				c.Value = make([]byte, r.Intn(api.MaxCell-len(c.Key)+1))
@@ -573,34 +574,4 @@ func anyRow(r *rand.Rand, level int) []api.Cell {
 		row = slices.Insert(row[:len(row)-1], min(1, len(row)-1)+r.Intn(len(row)-1), last)
 		return row
 	}
-}
-
-// A row's size is what its page has less of room.
-func TestSize(t *testing.T) {
-	r := rand.New(rand.NewSource(9))
-	for range 2000 {
-		n := &node{kind: rootKind, row: anyRow(r, 0)}
-		if _, is := n.bytes(); is {
-			t.Fatalf("a row of %d is on a page", size(n.row))
-		}
-		n.row = n.row[:len(n.row)-1]
-		for ; len(n.row) > 0; n.row = n.row[1:] {
-			p, is := n.bytes()
-			if is != (size(n.row) <= room) || is && page.Room(p) != room-size(n.row) {
-				t.Fatalf("a row of %d: %v, room for %d", size(n.row), is, page.Room(p))
-			}
-			if m, _ := parse(p); is && (m == nil || !slices.EqualFunc(m.row, n.row, sameCell)) {
-				t.Fatalf("the row %v has become %v", n.row, m)
-			}
-		}
-	}
-	for x := range 65536 {
-		if number(numbered(x)) != x {
-			t.Fatalf("the child %d has become %d", x, number(numbered(x)))
-		}
-	}
-}
-
-func sameCell(a, b api.Cell) bool {
-	return bytes.Equal(a.Key, b.Key) && bytes.Equal(a.Value, b.Value)
 }
