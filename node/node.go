@@ -5,6 +5,7 @@ import (
 	"parchment/api"
 	"parchment/change"
 	"parchment/page"
+	"parchment/sheet"
 )
 
 // A page's kind says that it is one of a tree: its root, or another one; and its level: how many levels of pages are below it. So no way down is endless, and all leaves are as deep.
@@ -14,9 +15,6 @@ const (
 	levelBits byte = 15
 	MaxLevel       = int(levelBits)
 )
-
-// mapBits is how many pages one page of the space's map tells of (chapter 14).
-const mapBits = 8 * api.BlockSize
 
 // Node is what stands on a page of a tree. A leaf's cells are the tree's own. Those of a page above have children as values: the keys below a child are not below its own key, and below the next one that stands there; the first child's key is of no bytes.
 type Node struct {
@@ -52,12 +50,7 @@ func (n *Node) Child(b *change.Book, c api.Cell) (*Node, api.Errno) {
 
 // load is the node on a page that a tree may have.
 func load(b *change.Book, number int) (*Node, api.Errno) {
-	pages := b.Pages()
-	own := 1 + (pages+mapBits-1)/mapBits
-	if number < own || number >= pages {
-		return nil, api.ErrShape
-	}
-	p, e := b.Page(number)
+	p, e := sheet.Read(b, number)
 	if e != api.OK {
 		return nil, e
 	}
